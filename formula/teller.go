@@ -8,7 +8,7 @@ type moment struct{ node, tick int }
 // answer is what was found of a moment.
 type answer struct{ holds bool }
 
-// teller makes the closure that tells whether a node holds at a tick. It calls itself for nodes ahead alone, so that it is never deeper than the formula, however long the trace; what it has found of nodes with parts it remembers, since several nodes may ask for one, and at a tick again and again.
+// teller makes the closure that tells whether a node holds at a tick. It calls itself for nodes ahead alone, so that it is never deeper than the formula, however long the trace; what it has found it remembers, but of atoms, which are told as fast: several nodes may ask for one, and at a tick again and again.
 func teller(l []api.Node, channels []api.Channel, trace [][]api.Reading) func(node, tick int) bool {
 	found := map[moment]answer{}
 	var holds func(node, tick int) bool
